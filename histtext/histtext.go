@@ -5,7 +5,7 @@ import (
 	"slices"
 
 	"assayer/api"
-	"assayer/scan"
+	"assayer/keys"
 )
 
 // eventWords is the words of the kinds of events, each at its kind's place; at 0, where no kind is, none.
@@ -42,7 +42,7 @@ func canEvent(e api.Event) bool {
 		return false
 	}
 	for _, o := range e.Ops {
-		if !isKey(o.Key) || !canOp(o) {
+		if !keys.Is(o.Key) || !canOp(o) {
 			return false
 		}
 	}
@@ -64,15 +64,6 @@ func canOp(o api.Op) bool {
 }
 
 func isProcess(n int) bool { return 0 <= n && n <= api.MaxProc }
-
-// isKey leaves it to layer 1 what a word is.
-func isKey(s string) bool {
-	if len(s) > api.MaxKey {
-		return false
-	}
-	l, err := scan.Scan(s)
-	return err == nil && len(l) == 1 && l[0].Kind == api.TokWord && l[0].Text == s
-}
 
 // Same tells whether two histories are the same.
 func Same(a, b []api.Event) bool { return slices.EqualFunc(a, b, sameEvent) }

@@ -2,6 +2,7 @@ package histtext
 
 import (
 	"assayer/api"
+	"assayer/keys"
 	"assayer/scan"
 )
 
@@ -117,7 +118,7 @@ func (p *parser) kind(words [5]string) int {
 
 func (p *parser) key() string {
 	t := p.look()
-	if t.Kind != api.TokWord || !isKey(t.Text) {
+	if t.Kind != api.TokWord || !keys.Is(t.Text) {
 		p.giveUp(api.ErrToken)
 	}
 	p.next++
