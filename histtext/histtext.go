@@ -5,7 +5,7 @@ import (
 	"slices"
 
 	"assayer/api"
-	"assayer/keys"
+	"assayer/ops"
 )
 
 // eventWords is the words of the kinds of events, each at its kind's place; at 0, where no kind is, none.
@@ -42,25 +42,11 @@ func canEvent(e api.Event) bool {
 		return false
 	}
 	for _, o := range e.Ops {
-		if !keys.Is(o.Key) || !canOp(o) {
+		if !ops.Can(o) {
 			return false
 		}
 	}
 	return true
-}
-
-// canOp tells whether an operation may be, its key left aside.
-func canOp(o api.Op) bool {
-	switch o.Kind {
-	case api.OpAppend, api.OpWrite:
-		return len(o.List) == 0 && !o.Has && !o.Nil
-	case api.OpRead:
-		return o.Value == 0 && !o.Nil && len(o.List) <= api.MaxList && (o.Has || len(o.List) == 0)
-	case api.OpGet:
-		hasValue := o.Has && !o.Nil
-		return len(o.List) == 0 && (o.Has || !o.Nil) && (hasValue || o.Value == 0)
-	}
-	return false
 }
 
 func isProcess(n int) bool { return 0 <= n && n <= api.MaxProc }

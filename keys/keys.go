@@ -1,16 +1,21 @@
-// Package keys holds what histtext and report need to know of a key, so that both of them mean the same by it.
+// Package keys holds what histtext, report and ops need to know of a key, so that all of them mean the same by it.
 package keys
 
-import (
-	"assayer/api"
-	"assayer/scan"
-)
+import "assayer/api"
 
-// Is tells whether a text is a key: a word of at most MaxKey bytes. What a word is, is left to layer 1.
+// Is tells whether a text is a key: a word of at most MaxKey bytes. What a word is, layer 1 says; it is said again here, since not every layer that asks for a key may call that one.
 func Is(s string) bool {
-	if len(s) > api.MaxKey {
+	if s == "" || len(s) > api.MaxKey || isDigit(s[0]) {
 		return false
 	}
-	l, err := scan.Scan(s)
-	return err == nil && len(l) == 1 && l[0].Kind == api.TokWord && l[0].Text == s
+	for _, c := range []byte(s) {
+		if !isSmall(c) && !isDigit(c) {
+			return false
+		}
+	}
+	return true
 }
+
+func isSmall(c byte) bool { return 'a' <= c && c <= 'z' }
+
+func isDigit(c byte) bool { return '0' <= c && c <= '9' }

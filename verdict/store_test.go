@@ -6,6 +6,7 @@ import (
 
 	"assayer/api"
 	"assayer/model"
+	"assayer/sim"
 )
 
 // How a store does transactions.
@@ -46,9 +47,12 @@ type store struct {
 	value   int
 }
 
-// history is one of a store that does transactions in one of the ways.
+// history is one of a store that does transactions in one of the ways, or of layer 23.
 func history(r *rand.Rand, m mix) []api.Event {
 	s := &store{Rand: r, mix: m, way: r.Intn(ways), state: model.New(), clients: make([]client, 2+r.Intn(3))}
+	if r.Intn(4) == 0 {
+		return s.simulated()
+	}
 	for range 12 * m.events {
 		if len(s.events) >= m.events {
 			break
@@ -69,10 +73,44 @@ func history(r *rand.Rand, m mix) []api.Event {
 	return s.events
 }
 
+// simulated is a history of layer 23's store, in any mode; in the end the last client reads all, if it is so asked, and not picked earlier.
+func (s *store) simulated() []api.Event {
+	plans := make([][]api.Plan, len(s.clients)+1)
+	for range s.mix.events / 2 {
+		end, p := s.ends[s.Intn(len(s.ends))], s.Intn(len(s.clients))
+		plans[p] = append(plans[p], api.Plan{Ops: s.askSome(), Abort: end == api.EvFail, Lost: end == api.EvInfo})
+	}
+	if s.readAll {
+		plans[len(s.clients)] = []api.Plan{{Ops: readsOfAll()}}
+	}
+	picks := make([]int, 3*s.mix.events)
+	for i := range picks {
+		picks[i] = s.Intn(len(s.clients))
+	}
+	l, why := sim.Run(1+s.Intn(4), plans, picks[:s.Intn(len(picks)+1)])
+	if why != api.OK {
+		panic(why)
+	}
+	for _, e := range l {
+		if e.Kind == api.EvOk && s.Intn(s.spoil) == 0 {
+			s.change(&e.Ops[s.Intn(len(e.Ops))])
+		}
+	}
+	return l
+}
+
 // finish lets one more client read all.
 func (s *store) finish() {
 	p := len(s.clients)
 	s.clients = append(s.clients, client{})
+	s.begin(p, readsOfAll())
+	for s.clients[p].asked != nil {
+		s.step(p, false)
+	}
+}
+
+// readsOfAll is a read of each thing.
+func readsOfAll() []api.Op {
 	var asked []api.Op
 	for _, key := range []string{"x", "y", "p", "q"} {
 		kind := api.OpRead
@@ -81,10 +119,7 @@ func (s *store) finish() {
 		}
 		asked = append(asked, api.Op{Kind: kind, Key: key})
 	}
-	s.begin(p, asked)
-	for s.clients[p].asked != nil {
-		s.step(p, false)
-	}
+	return asked
 }
 
 // comeIn puts something into the store that was to come later; sometimes the last operation first.
@@ -107,16 +142,21 @@ func (s *store) step(p int, more bool) {
 	switch {
 	case c.gone || c.asked == nil && !more:
 	case c.asked == nil:
-		var asked []api.Op
-		for range 1 + s.Intn(4) {
-			asked = append(asked, s.ask())
-		}
-		s.begin(p, asked)
+		s.begin(p, s.askSome())
 	case len(c.told) < len(c.asked) && (s.way == live || s.way == snapshot):
 		s.do(c)
 	default:
 		s.end(p)
 	}
+}
+
+// askSome is operations at random.
+func (s *store) askSome() []api.Op {
+	var asked []api.Op
+	for range 1 + s.Intn(4) {
+		asked = append(asked, s.ask())
+	}
+	return asked
 }
 
 // ask is an operation at random.

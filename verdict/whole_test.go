@@ -304,7 +304,7 @@ func rounds(l, path []api.Why, tell func([]api.Why)) {
 func TestShown(t *testing.T) {
 	r := rand.New(rand.NewSource(193))
 	shown := [2]int{}
-	for range 2500 {
+	for range 3000 {
 		m := anything(r)
 		m.events = min(m.events, 10)
 		l := txns(t, history(r, m))
